@@ -400,6 +400,15 @@ func put(w *pack.Writer, x thing) {
 	}
 }
 
+// allOf answers what a Writer has behind these things.
+func allOf(l []thing) string {
+	return written(func(w *pack.Writer) {
+		for _, x := range l {
+			put(w, x)
+		}
+	})
+}
+
 func isNext(r *pack.Reader, x thing) bool {
 	switch x.kind {
 	case aNum:
@@ -413,11 +422,7 @@ func isNext(r *pack.Reader, x thing) bool {
 func TestWhatWasWrittenIsRead(t *testing.T) {
 	for turn := range 2000 {
 		l := script(turn)
-		b := written(func(w *pack.Writer) {
-			for _, x := range l {
-				put(w, x)
-			}
-		})
+		b := allOf(l)
 		r := pack.New([]byte(b))
 		for i, x := range l {
 			if r.End() != api.ErrOrder {
@@ -437,11 +442,7 @@ func TestWhatWasWrittenIsRead(t *testing.T) {
 func TestWhatIsCutIsWrong(t *testing.T) {
 	for turn := range 200 {
 		l := script(turn)
-		b := written(func(w *pack.Writer) {
-			for _, x := range l {
-				put(w, x)
-			}
-		})
+		b := allOf(l)
 		for n := range len(b) {
 			r := pack.New([]byte(b[:n]))
 			for _, x := range l {
