@@ -127,16 +127,7 @@ func TestGetChainOfWhatIsNone(t *testing.T) {
 
 func TestGetChainTakesOnlyWhatPutChainMakes(t *testing.T) {
 	for _, c := range chains() {
-		neighbours(plainChain(c), func(b []byte) {
-			got, e := item.GetChain(b)
-			if e != api.OK {
-				mustBeNoChain(t, "a neighbour", b)
-				return
-			}
-			if again, e := item.PutChain(got); e != api.OK || string(again) != string(b) {
-				t.Errorf("%x is taken for %v, which is %x, %d", b, got, again, e)
-			}
-		})
+		mustTakeOnlyWhatIsPut(t, plainChain(c), item.GetChain, item.PutChain)
 	}
 }
 
