@@ -243,7 +243,7 @@ func TestCheckOfWritesInTheirOrder(t *testing.T) {
 		wantCheck(t, acts, log[:n], 5, 0, 0)
 		wantCheck(t, acts, log, 5, 0, 0)
 		if n > 0 {
-			wantCheck(t, acts, log[:n-1], 5, -2*n, -2*n) // it stands nowhere
+			wantCheck(t, acts, log[:n-1], 5, -n, -n) // it stands nowhere
 			wantCheck(t, acts[:2*n-1], log[:n-1], 5, 0, 0)
 		}
 	}
@@ -257,7 +257,7 @@ func TestCheckOfWrongWrites(t *testing.T) {
 			t.Helper()
 			acts := inOrder(log, replies)
 			change(&acts[2*k], &acts[2*k+1])
-			wantCheck(t, acts, log, 5, -2*k-2, -2*k-2)
+			wantCheck(t, acts, log, 5, -k-1, -k-1)
 		}
 		for at := range len(log) + 3 {
 			if at != k+1 {
@@ -299,7 +299,7 @@ func TestCheckOfAnotherOnesWrite(t *testing.T) {
 	log := []api.Req{create(0, 1, 3, "a"), create(1, 1, 4, "a"), create(1, 2, 5, "a")}
 	for _, q := range []api.Req{create(0, 1, 3, "a"), create(2, 1, 3, "a"), create(0, 2, 3, "a"), create(1, 1, 4, "a"), create(1, 2, 5, "a")} {
 		for at := range 5 {
-			want := -2
+			want := -1
 			if at > 0 && at <= len(log) && log[at-1] == q {
 				want = 0
 			}
@@ -313,13 +313,13 @@ func TestCheckOfWritesAheadOfTheirAsking(t *testing.T) {
 	log := []api.Req{create(0, 1, 3, "a"), create(1, 1, 4, "b")}
 	first, second := both(log[0], done(1), 1), both(log[1], done(1), 2)
 	wantCheck(t, slices.Concat(first, second), log, 5, 0, 0)
-	wantCheck(t, slices.Concat(second, first), log, 5, -4, -4)
+	wantCheck(t, slices.Concat(second, first), log, 5, -2, -2)
 	wantCheck(t, []api.Act{first[0], second[0], second[1], first[1]}, log, 5, 0, 0)
 	wantCheck(t, []api.Act{second[0], first[0], second[1], first[1]}, log, 5, 0, 0)
 	wantCheck(t, []api.Act{second[0], second[1], first[0]}, log, 5, 0, 0)
 
 	// also ahead of what reads were told, wherever those stand: just there, or behind it
-	for at, want := range map[int]int{0: 0, 1: -4, 2: -4} {
+	for at, want := range map[int]int{0: 0, 1: -2, 2: -2} {
 		acts := slices.Concat(both(read(2, 1, 5), api.Reply{Code: api.RNone}, at), first)
 		wantCheck(t, acts, log, 5, want, want)
 		acts = []api.Act{acts[0], acts[2], acts[1], acts[3]}
@@ -356,7 +356,7 @@ func TestCheckByQuota(t *testing.T) {
 		log = append(log, q)
 		full := append(slices.Clone(acts), both(q, api.Reply{Code: api.RQuota, Version: quota}, quota+1)...)
 		more := append(slices.Clone(acts), both(q, done(quota+1), quota+1)...)
-		last := len(full)
+		last := quota + 1
 		wantCheck(t, full, log, quota, 0, 0)
 		wantCheck(t, more, log, quota, -last, -last)
 		if quota < api.MaxQuota {
@@ -364,7 +364,7 @@ func TestCheckByQuota(t *testing.T) {
 			wantCheck(t, more, log, quota+1, 0, 0)
 		}
 		if quota > 1 {
-			wantCheck(t, full, log, quota-1, 2-last, 2-last)
+			wantCheck(t, full, log, quota-1, 1-last, 1-last)
 		}
 	}
 }
@@ -381,9 +381,9 @@ func TestCheckOfReads(t *testing.T) {
 				reply, _ := s.Ask(q)
 				want := 0
 				if at > len(log) {
-					want = -2
+					want = -1
 				} else if there, _ := made(log[:at], 5).Ask(q); !sameReply(there, reply) {
-					want = -2
+					want = -1
 				}
 				wantCheck(t, both(q, reply, at), log, 5, want, 0)
 			}
@@ -406,10 +406,10 @@ func TestCheckOfWrongReads(t *testing.T) {
 		fewer.Versions = []int{2}
 		more.Versions = append(slices.Clone(r.Versions), 3)
 		for _, wrong := range []api.Reply{{}, code, other, data, fewer, more} {
-			wantCheck(t, both(q, wrong, 2), log, 5, -2, 0)
+			wantCheck(t, both(q, wrong, 2), log, 5, -1, 0)
 		}
-		wantCheck(t, both(q, r, 3), log, 5, -2, 0)
-		wantCheck(t, both(q, r, api.MaxSeq), log, 5, -2, 0)
+		wantCheck(t, both(q, r, 3), log, 5, -1, 0)
+		wantCheck(t, both(q, r, api.MaxSeq), log, 5, -1, 0)
 	}
 }
 
@@ -419,11 +419,11 @@ func TestCheckOfReadsByTheirAsking(t *testing.T) {
 	acts := inOrder(log, []api.Reply{done(1), done(2)})
 	for at := range 3 {
 		wantCheck(t, append(slices.Clone(acts), both(read(1, 1, 3), shows(2, "b"), at)...), log, 5, 0, 0)
-		wantCheck(t, append(slices.Clone(acts), both(read(1, 1, 3), shows(1, "a"), at)...), log, 5, -6, 0)
+		wantCheck(t, append(slices.Clone(acts), both(read(1, 1, 3), shows(1, "a"), at)...), log, 5, -3, 0)
 		sooner := slices.Concat(acts[:2], []api.Act{asks(read(1, 1, 3))}, acts[2:])
-		want := map[int]int{0: 0, 1: 0, 2: -6}[at]
+		want := map[int]int{0: 0, 1: 0, 2: -3}[at]
 		wantCheck(t, append(slices.Clone(sooner), told(read(1, 1, 3), shows(1, "a"), at)), log, 5, want, 0)
-		wantCheck(t, append(slices.Clone(sooner), told(read(1, 1, 3), shows(2, "b"), at)), log, 5, -6-want, 0)
+		wantCheck(t, append(slices.Clone(sooner), told(read(1, 1, 3), shows(2, "b"), at)), log, 5, -3-want, 0)
 	}
 }
 
@@ -432,13 +432,13 @@ func TestCheckOfReadsBehindReads(t *testing.T) {
 	log := []api.Req{create(0, 1, 3, "a"), update(0, 2, 3, 0, "b")}
 	newer, older := both(read(1, 1, 3), shows(2, "b"), 2), both(read(2, 1, 3), shows(1, "a"), 1)
 	wantCheck(t, slices.Concat(older, newer), log, 5, 0, 0)
-	wantCheck(t, slices.Concat(newer, older), log, 5, -4, 0)
+	wantCheck(t, slices.Concat(newer, older), log, 5, -2, 0)
 	wantCheck(t, []api.Act{newer[0], older[0], newer[1], older[1]}, log, 5, 0, 0)
 }
 
 // 23.2: the number of the first one
 
-// It is the first by acts, not by places; what is asked counts as well.
+// It is the first by acts, not by places; what is asked does not count.
 func TestCheckTellsTheFirstByActs(t *testing.T) {
 	log, replies := chosen()
 	for one := range log {
@@ -453,20 +453,76 @@ func TestCheckTellsTheFirstByActs(t *testing.T) {
 				for _, k := range wrong {
 					l[k].Reply.Code = 99
 				}
-				wantCheck(t, l, log, 5, -wrong[0]-1, -wrong[0]-1)
+				wantCheck(t, l, log, 5, 1-wrong[0], 1-wrong[0])
 			}
 		}
 	}
 }
 
-// Of what reads and what writes both, in either order; without reads the one that writes is the first.
+// An answer's number is its own: how many answers there are up to it, however many acts.
+func TestCheckTellsTheAnswersOwnNumber(t *testing.T) {
+	a, b, r := create(0, 1, 1, "a"), update(1, 1, 1, 0, "b"), read(2, 1, 1)
+	log := []api.Req{a, b}
+	first := both(a, done(1), 1)
+	between := slices.Concat(first, []api.Act{asks(r)}, both(b, done(2), 2))
+	wantCheck(t, append(slices.Clone(between), told(r, shows(1, "a"), 0)), log, 5, 0, 0)
+	wantCheck(t, append(slices.Clone(between), told(r, shows(1, "a"), 2)), log, 5, -3, 0)
+	wantCheck(t, slices.Concat(first, both(b, done(1), 2)), log, 5, -2, -2)
+	wantCheck(t, both(a, done(2), 1), log, 5, -1, -1)
+}
+
+// Whoever else asks, at whatever moment, and waits: that has no number.
+func TestWhatWaitsHasNoNumber(t *testing.T) {
+	var log []api.Req
+	var acts []api.Act
+	for k := range 6 {
+		log = append(log, update(0, k+1, 3, 0, "b"))
+		acts = append(acts, both(log[k], api.Reply{Code: api.RNone}, k+1)...)
+	}
+	for wrong := range log {
+		l := slices.Clone(acts)
+		l[2*wrong+1].Reply.Code = 99
+		for one := range len(l) + 1 {
+			more := slices.Insert(slices.Clone(l), one, asks(create(1, 7, 4, "c")))
+			wantCheck(t, more, log, 5, -wrong-1, -wrong-1)
+			for two := range len(more) + 1 {
+				wantCheck(t, slices.Insert(slices.Clone(more), two, asks(read(2, 7, 3))), log, 5, -wrong-1, -wrong-1)
+			}
+		}
+	}
+}
+
+// Of answers in any order to what four clients asked at first, in any order, each one is known by when it was told.
+func TestNumbersGoByTheOrderOfAnswers(t *testing.T) {
+	log := []api.Req{create(0, 1, 3, "a"), create(1, 1, 4, "b"), create(2, 1, 5, "c"), create(3, 1, 6, "d")}
+	for order := range 4 * 4 * 4 * 4 {
+		var turns []int
+		for left := order; len(turns) < 4 && !slices.Contains(turns, left%4); left /= 4 {
+			turns = append(turns, left%4)
+		}
+		if len(turns) < 4 {
+			continue
+		}
+		for wrong := range 4 {
+			var acts []api.Act
+			for _, client := range turns {
+				acts = slices.Insert(acts, 0, asks(log[client]))
+				acts = append(acts, told(log[client], done(1), client+1))
+			}
+			acts[4+wrong].Reply.Version = 2
+			wantCheck(t, acts, log, 5, -wrong-1, -wrong-1)
+		}
+	}
+}
+
+// Of what reads and what writes both, in either order; without reads the one that writes is the first, by the same number.
 func TestCheckTellsTheFirstOfBoth(t *testing.T) {
 	log := []api.Req{create(0, 1, 3, "a")}
 	wrong, stale := both(log[0], done(2), 1), both(read(1, 1, 3), shows(7, "z"), 1)
-	wantCheck(t, slices.Concat(stale, wrong), log, 5, -2, -4)
-	wantCheck(t, slices.Concat(wrong, stale), log, 5, -2, -2)
-	wantCheck(t, []api.Act{wrong[0], stale[0], stale[1], wrong[1]}, log, 5, -3, -4)
-	wantCheck(t, []api.Act{wrong[0], stale[0], wrong[1], stale[1]}, log, 5, -3, -3)
+	wantCheck(t, slices.Concat(stale, wrong), log, 5, -1, -2)
+	wantCheck(t, slices.Concat(wrong, stale), log, 5, -1, -1)
+	wantCheck(t, []api.Act{wrong[0], stale[0], stale[1], wrong[1]}, log, 5, -1, -2)
+	wantCheck(t, []api.Act{wrong[0], stale[0], wrong[1], stale[1]}, log, 5, -1, -1)
 }
 
 // 23.2: without reads
@@ -475,11 +531,11 @@ func TestCheckTellsTheFirstOfBoth(t *testing.T) {
 func TestWritesBehindReads(t *testing.T) {
 	log := []api.Req{create(0, 1, 3, "a"), create(0, 2, 4, "b")}
 	acts := slices.Concat(both(read(1, 1, 31), api.Reply{Code: api.RNone}, 1), both(log[0], done(1), 1))
-	wantCheck(t, acts, log, 5, -4, -4)
+	wantCheck(t, acts, log, 5, -2, -2)
 	acts[1].At = 0
 	wantCheck(t, acts, log, 5, 0, 0)
 	acts[1].At = 9 // there is no such place, but this is only seen with reads
-	wantCheck(t, acts, log, 5, -2, -4)
+	wantCheck(t, acts, log, 5, -1, -2)
 }
 
 // What is handed in.

@@ -27,7 +27,7 @@ func (p *places) next(a api.Act) int {
 	return place
 }
 
-// answer is an act that tells, with its number among all acts, from 1 on, its place and that of its asking.
+// answer is an act that tells, with its number among all answers, from 1 on, its place and that of its asking.
 type answer struct {
 	api.Act
 	number, place, asked int
@@ -37,9 +37,14 @@ type answer struct {
 func answers(l []api.Act) iter.Seq[answer] {
 	return func(yield func(answer) bool) {
 		var p places
-		for k, a := range l {
+		number := 0
+		for _, a := range l {
 			place := p.next(a)
-			if a.Answer && !yield(answer{a, k + 1, place, p.asked[a.Client]}) {
+			if !a.Answer {
+				continue
+			}
+			number++
+			if !yield(answer{a, number, place, p.asked[a.Client]}) {
 				return
 			}
 		}

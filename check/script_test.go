@@ -70,13 +70,15 @@ func checkByWords(acts []api.Act, log []api.Req, quota int, reads bool) int {
 	if e != api.OK || !past.May(acts) {
 		return api.ErrArg
 	}
-	l := placesByWords(acts)
+	l, answers := placesByWords(acts), 0
 	for k, a := range acts {
-		if !a.Answer || a.Req.Kind > api.OpDelete && !reads {
+		if !a.Answer {
 			continue
 		}
-		if !rightByWords(a, l[k], l[asking(acts, k)], log, quota) {
-			return -k - 1
+		answers++
+		looked := reads || a.Req.Kind <= api.OpDelete
+		if looked && !rightByWords(a, l[k], l[asking(acts, k)], log, quota) {
+			return -answers
 		}
 	}
 	return 0
@@ -221,7 +223,7 @@ func TestLongPast(t *testing.T) {
 		t.Errorf("Check: %d", got)
 	}
 	acts[4*long-1].Reply.Code = 99
-	if with, without := check.Check(acts, log, api.MaxQuota, true), check.Writes(acts, log, api.MaxQuota); with != -4*long || without != 0 {
+	if with, without := check.Check(acts, log, api.MaxQuota, true), check.Writes(acts, log, api.MaxQuota); with != -2*long || without != 0 {
 		t.Errorf("Check: %d, Writes: %d", with, without)
 	}
 }
